@@ -9,6 +9,7 @@ import (
 	"testing"
 
 	"tollhouse/api"
+	"tollhouse/sample"
 )
 
 // answer is what both calls tell.
@@ -190,17 +191,6 @@ func shown(l []api.Field) string {
 		return fmt.Sprintf("%s .. %s (%d)", s[:100], s[len(s)-100:], len(s))
 	}
 	return s
-}
-
-// every calls f with each row of at most most of these items.
-func every[T any](items []T, most int, f func([]T)) {
-	f(nil)
-	if most == 0 {
-		return
-	}
-	for _, item := range items {
-		every(items, most-1, func(row []T) { f(append([]T{item}, row...)) })
-	}
 }
 
 func TestKinds(t *testing.T) {
@@ -479,12 +469,12 @@ func TestBytes(t *testing.T) {
 
 // P7.1, P7.2: all short values of the signs that matter.
 func TestShortValues(t *testing.T) {
-	every([]string{"0", "5", "4096", tooLong, ",", " ", "\t", "\"", "\\", "-", "x"}, 4, func(row []string) {
+	sample.Rows([]string{"0", "5", "4096", tooLong, ",", " ", "\t", "\"", "\\", "-", "x"}, 4, func(row []string) {
 		l := []api.Field{{Name: "Content-Length", Value: strings.Join(row, "")}}
 		isRequest(t, 1, l, modelRequest(1, l))
 		isResponse(t, 200, "GET", 0, l, modelResponse(200, "GET", 0, l))
 	})
-	every([]string{"chunked", "CHUNKED", "gzip", ",", " ", "\t", "\"", "\\", ";"}, 4, func(row []string) {
+	sample.Rows([]string{"chunked", "CHUNKED", "gzip", ",", " ", "\t", "\"", "\\", ";"}, 4, func(row []string) {
 		l := []api.Field{{Name: "Transfer-Encoding", Value: strings.Join(row, "")}}
 		isRequest(t, 1, l, modelRequest(1, l))
 		isResponse(t, 200, "GET", 1, l, modelResponse(200, "GET", 1, l))
@@ -493,7 +483,7 @@ func TestShortValues(t *testing.T) {
 
 // lists calls f with all short lists of the fields that matter.
 func lists(f func([]api.Field)) {
-	every(fields(
+	sample.Rows(fields(
 		"Content-Length:5", "content-length: 05 ,", "Content-Length:5, 5", "CONTENT-LENGTH:6", "Content-Length:", "Content-Length:-5", "Content-Length:0", "Content-Length:4096", "Content-Length:4097",
 		"Content-Length:"+tooLong, "Content-Length:0"+tooLong, "Transfer-Encoding:chunked", "transfer-encoding:,Chunked", "Transfer-Encoding:gzip", "TRANSFER-ENCODING:", "Transfer-Encoding:chunked, chunked", "X:5",
 	), 3, f)

@@ -9,6 +9,7 @@ import (
 	"unsafe"
 
 	"tollhouse/api"
+	"tollhouse/sample"
 )
 
 // The limits, as the chapter has them.
@@ -101,7 +102,7 @@ func parses(t *testing.T, s string, want []api.Field, used int, err api.Errno) {
 	t.Helper()
 	l, n, e := Parse([]byte(s))
 	if !slices.Equal(l, want) || n != used || e != err {
-		t.Errorf("Parse(%s): %q, %d, %d; want %q, %d, %d", shown(s), l, n, e, want, used, err)
+		t.Errorf("Parse(%s): %q, %d, %d; want %q, %d, %d", sample.Shown(s), l, n, e, want, used, err)
 	}
 }
 
@@ -125,25 +126,6 @@ func asModel(t *testing.T, s string) {
 	}
 }
 
-// shown is s, short enough to be read.
-func shown(s string) string {
-	if len(s) > 80 {
-		return fmt.Sprintf("%q .. %q (%d)", s[:40], s[len(s)-40:], len(s))
-	}
-	return fmt.Sprintf("%q", s)
-}
-
-// every calls f with each text of at most most of these parts.
-func every(parts []string, most int, f func(string)) {
-	f("")
-	if most == 0 {
-		return
-	}
-	for _, part := range parts {
-		every(parts, most-1, func(s string) { f(part + s) })
-	}
-}
-
 func fields(pairs ...string) []api.Field {
 	var l []api.Field
 	for i := 0; i < len(pairs); i += 2 {
@@ -157,7 +139,7 @@ func put(t *testing.T, l []api.Field, want string) {
 	t.Helper()
 	b, e := Put(l)
 	if !May(l) || string(b) != want || e != api.OK {
-		t.Errorf("%q: %v; Put: %s, %d; want %s", l, May(l), shown(string(b)), e, shown(want))
+		t.Errorf("%q: %v; Put: %s, %d; want %s", l, May(l), sample.Shown(string(b)), e, sample.Shown(want))
 	}
 }
 
@@ -165,7 +147,7 @@ func mayNot(t *testing.T, l []api.Field) {
 	t.Helper()
 	b, e := Put(l)
 	if May(l) || len(b) != 0 || e != api.ErrArg {
-		t.Errorf("%q: %v; Put: %s, %d; want false; ErrArg", l, May(l), shown(string(b)), e)
+		t.Errorf("%q: %v; Put: %s, %d; want false; ErrArg", l, May(l), sample.Shown(string(b)), e)
 	}
 }
 
@@ -285,8 +267,8 @@ func TestParseBytes(t *testing.T) {
 
 // P5.2, P5.4, P5.5: all short texts of what matters.
 func TestParseShort(t *testing.T) {
-	every([]string{"a", ":", " ", "\t", "\r", "\n", "\r\n", "\x01", "\xff"}, 5, func(s string) { asModel(t, s) })
-	every([]string{"a", ":", " ", "\r\n", "\n"}, 7, func(s string) { asModel(t, s) })
+	sample.Texts([]string{"a", ":", " ", "\t", "\r", "\n", "\r\n", "\x01", "\xff"}, 5, func(s string) { asModel(t, s) })
+	sample.Texts([]string{"a", ":", " ", "\r\n", "\n"}, 7, func(s string) { asModel(t, s) })
 }
 
 // P5.2: lines of just 512 bytes, and of one more.
@@ -540,7 +522,7 @@ func backAgain(t *testing.T, l []api.Field) {
 	t.Helper()
 	b, e := Put(l)
 	if e != api.OK || string(b) != modelPut(l) {
-		t.Fatalf("Put(%q): %s, %d", l, shown(string(b)), e)
+		t.Fatalf("Put(%q): %s, %d", l, sample.Shown(string(b)), e)
 	}
 	for _, behind := range []string{"", "a", "\r", "\n", "\r\n", " ", ":", "\x00", "a: b\r\n\r\n", strings.Repeat("x", mostBytes)} {
 		parses(t, string(b)+behind, l, len(b), api.OK)
@@ -600,7 +582,7 @@ func TestTold(t *testing.T) {
 	mayNot(t, l)
 	for _, s := range []string{"\r\n", "a:\r\n\r\n", "a:\t b \r\nB: c\r\n\r\n", "a:" + strings.Repeat(" ", mostLine-2) + "\r\n\r\n", strings.Repeat("a:\r\n", mostFields) + "\r\n"} {
 		if l, _, e := Parse([]byte(s)); e != api.OK || !May(l) {
-			t.Errorf("%s: %q, %d; %v", shown(s), l, e, May(l))
+			t.Errorf("%s: %q, %d; %v", sample.Shown(s), l, e, May(l))
 		}
 	}
 }

@@ -8,6 +8,7 @@ import (
 	"testing"
 
 	"tollhouse/api"
+	"tollhouse/sample"
 )
 
 // base is one of the two, with its calls and its digits as the chapter names them.
@@ -89,17 +90,6 @@ func (b base) writes(t *testing.T, n uint64) {
 	}
 	if back, e := b.read(s); e != api.OK || back != n {
 		t.Errorf("%s of %q: %d, %d; want %d", b.name, s, back, e, n)
-	}
-}
-
-// every calls f with each text of at most most of these signs.
-func every(signs []string, most int, f func(string)) {
-	f("")
-	if most == 0 {
-		return
-	}
-	for _, sign := range signs {
-		every(signs, most-1, func(s string) { f(sign + s) })
 	}
 }
 
@@ -202,7 +192,7 @@ func TestMost(t *testing.T) {
 
 // P3.1, P3.3: all short texts of digits, and of what is none.
 func TestShortTexts(t *testing.T) {
-	every([]string{"0", "1", "9", "a", "F", "g", "-", " ", "\xff"}, 5, func(s string) {
+	sample.Texts([]string{"0", "1", "9", "a", "F", "g", "-", " ", "\xff"}, 5, func(s string) {
 		for _, b := range bases {
 			b.asModel(t, s)
 		}

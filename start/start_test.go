@@ -10,6 +10,7 @@ import (
 	"unsafe"
 
 	"tollhouse/api"
+	"tollhouse/sample"
 )
 
 // The limits, as the chapter has them.
@@ -62,24 +63,24 @@ func isRequest(t *testing.T, line string, want request) {
 	t.Helper()
 	method, target, minor, e := Request(line)
 	if (request{method, target, minor}) != want || e != api.OK {
-		t.Errorf("Request(%s): %q, %q, %d, %d; want %v", shown(line), method, target, minor, e, want)
+		t.Errorf("Request(%s): %q, %q, %d, %d; want %v", sample.Shown(line), method, target, minor, e, want)
 	}
 	if got, e := PutRequest(want.method, want.target, want.minor); got != line || e != api.OK {
-		t.Errorf("PutRequest of %v: %s, %d", want, shown(got), e)
+		t.Errorf("PutRequest of %v: %s, %d", want, sample.Shown(got), e)
 	}
 }
 
 func noRequest(t *testing.T, line string) {
 	t.Helper()
 	if method, target, minor, e := Request(line); method != "" || target != "" || minor != 0 || e != api.ErrForm {
-		t.Errorf("Request(%s): %q, %q, %d, %d", shown(line), method, target, minor, e)
+		t.Errorf("Request(%s): %q, %q, %d, %d", sample.Shown(line), method, target, minor, e)
 	}
 }
 
 func noPutRequest(t *testing.T, r request) {
 	t.Helper()
 	if line, e := PutRequest(r.method, r.target, r.minor); line != "" || e != api.ErrArg {
-		t.Errorf("PutRequest of %s, %s, %d: %s, %d", shown(r.method), shown(r.target), r.minor, shown(line), e)
+		t.Errorf("PutRequest of %s, %s, %d: %s, %d", sample.Shown(r.method), sample.Shown(r.target), r.minor, sample.Shown(line), e)
 	}
 }
 
@@ -88,24 +89,24 @@ func isStatus(t *testing.T, line string, want status) {
 	t.Helper()
 	minor, code, reason, e := Status(line)
 	if (status{minor, code, reason}) != want || e != api.OK {
-		t.Errorf("Status(%s): %d, %d, %q, %d; want %v", shown(line), minor, code, reason, e, want)
+		t.Errorf("Status(%s): %d, %d, %q, %d; want %v", sample.Shown(line), minor, code, reason, e, want)
 	}
 	if got, e := PutStatus(want.minor, want.status, want.reason); got != line || e != api.OK {
-		t.Errorf("PutStatus of %v: %s, %d", want, shown(got), e)
+		t.Errorf("PutStatus of %v: %s, %d", want, sample.Shown(got), e)
 	}
 }
 
 func noStatus(t *testing.T, line string) {
 	t.Helper()
 	if minor, code, reason, e := Status(line); minor != 0 || code != 0 || reason != "" || e != api.ErrForm {
-		t.Errorf("Status(%s): %d, %d, %q, %d", shown(line), minor, code, reason, e)
+		t.Errorf("Status(%s): %d, %d, %q, %d", sample.Shown(line), minor, code, reason, e)
 	}
 }
 
 func noPutStatus(t *testing.T, s status) {
 	t.Helper()
 	if line, e := PutStatus(s.minor, s.status, s.reason); line != "" || e != api.ErrArg {
-		t.Errorf("PutStatus of %d, %d, %s: %s, %d", s.minor, s.status, shown(s.reason), shown(line), e)
+		t.Errorf("PutStatus of %d, %d, %s: %s, %d", s.minor, s.status, sample.Shown(s.reason), sample.Shown(line), e)
 	}
 }
 
@@ -144,25 +145,6 @@ func putStatusAsModel(t *testing.T, s status) {
 		isStatus(t, line, s)
 	} else {
 		noPutStatus(t, s)
-	}
-}
-
-// shown is s, short enough to be read.
-func shown(s string) string {
-	if len(s) > 80 {
-		return fmt.Sprintf("%q .. %q (%d)", s[:40], s[len(s)-40:], len(s))
-	}
-	return fmt.Sprintf("%q", s)
-}
-
-// every calls f with each text of at most most of these parts.
-func every(parts []string, most int, f func(string)) {
-	f("")
-	if most == 0 {
-		return
-	}
-	for _, part := range parts {
-		every(parts, most-1, func(s string) { f(part + s) })
 	}
 }
 
@@ -404,10 +386,10 @@ func TestPieces(t *testing.T) {
 
 // P6.1, P6.2, P6.4: all short rows of what matters.
 func TestShort(t *testing.T) {
-	every([]string{"GET", " ", "/", "HTTP/1.1", "HTTP/1.0", "200", "OK"}, 6, func(s string) { asModel(t, s) })
-	every([]string{" ", "\t", "1", "é", "HTTP/1.1", " HTTP/1.1", "HTTP/1.1 ", "\r\n", "\x7f", "99", "599"}, 5, func(s string) { asModel(t, s) })
+	sample.Texts([]string{"GET", " ", "/", "HTTP/1.1", "HTTP/1.0", "200", "OK"}, 6, func(s string) { asModel(t, s) })
+	sample.Texts([]string{" ", "\t", "1", "é", "HTTP/1.1", " HTTP/1.1", "HTTP/1.1 ", "\r\n", "\x7f", "99", "599"}, 5, func(s string) { asModel(t, s) })
 	for _, ahead := range []string{"HTTP/1.1 ", "HTTP/1.0"} {
-		every([]string{"0", "1", "5", "6", "9", "+", "-", " ", "a"}, 5, func(s string) { asModel(t, ahead+s) })
+		sample.Texts([]string{"0", "1", "5", "6", "9", "+", "-", " ", "a"}, 5, func(s string) { asModel(t, ahead+s) })
 	}
 	parts := []string{"", " ", "\t", "/", "a", "HTTP/1.1", "\xff", "\x7f", "a b", "a ", " a"}
 	for _, a := range parts {
@@ -429,7 +411,7 @@ func TestNotBoth(t *testing.T) {
 			t.Errorf("%q is both", line)
 		}
 	}
-	every([]string{"HTTP/1.1", "HTTP/1.0", "HTTP", " ", "200", "/"}, 7, both)
+	sample.Texts([]string{"HTTP/1.1", "HTTP/1.0", "HTTP", " ", "200", "/"}, 7, both)
 }
 
 // R3: what is answered has none of an argument's memory, and no two answers have one another's.

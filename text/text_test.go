@@ -5,6 +5,8 @@ import (
 	"strings"
 	"testing"
 	"unsafe"
+
+	"tollhouse/sample"
 )
 
 // The signs of short texts of all kinds: what parts, quotes, takes along, blanks, letters; bytes that may not be shown;
@@ -14,17 +16,6 @@ var (
 	pairSigns = []string{"A", "b", "=", "\"", "\\", " ", "\x7f", "\xa9"}
 	oddTexts  = []string{"é", "\x80", "\xff", "\xc3", "\xa9", "�", "\xed\xa0\x80", "\xf4\x90\x80\x80", "\U0010ffff", "\u212a", "\u017f"}
 )
-
-// every calls f with each text of at most most of these signs.
-func every(signs []string, most int, f func(string)) {
-	f("")
-	if most == 0 {
-		return
-	}
-	for _, sign := range signs {
-		every(signs, most-1, func(s string) { f(sign + s) })
-	}
-}
 
 // The models below say what the chapter says, byte by byte, in another way than the package.
 
@@ -264,7 +255,7 @@ func TestList(t *testing.T) {
 }
 
 func TestListAsModel(t *testing.T) {
-	every(listSigns, 6, func(s string) {
+	sample.Texts(listSigns, 6, func(s string) {
 		l := List(s)
 		if !slices.Equal(l, modelList(s)) {
 			t.Errorf("List(%q): %q, want %q", s, l, modelList(s))
@@ -332,7 +323,7 @@ func TestUnquoteOfQuote(t *testing.T) {
 			t.Errorf("of %q: %q, %v", s, got, ok)
 		}
 	}
-	every(append(pairSigns, listSigns...), 4, back)
+	sample.Texts(append(pairSigns, listSigns...), 4, back)
 	for n := range 256 {
 		back("a" + string([]byte{byte(n)}) + "\"")
 	}
@@ -363,7 +354,7 @@ func TestPair(t *testing.T) {
 }
 
 func TestPairAndUnquoteAsModel(t *testing.T) {
-	every(pairSigns, 6, func(s string) {
+	sample.Texts(pairSigns, 6, func(s string) {
 		got, ok := Unquote(s)
 		if want, is := modelUnquote(s); got != want || ok != is {
 			t.Errorf("Unquote(%q): %q, %v", s, got, ok)
