@@ -22,6 +22,22 @@ func Rows[T any](items []T, most int, f func([]T)) {
 	}
 }
 
+// Anywhere calls f with s with each byte laid at each place, in another one's stead too, and with a byte less.
+func Anywhere(s string, f func(string)) {
+	for at := range len(s) + 1 {
+		for n := range 256 {
+			one := string([]byte{byte(n)})
+			f(s[:at] + one + s[at:])
+			if at < len(s) {
+				f(s[:at] + one + s[at+1:])
+			}
+		}
+		if at < len(s) {
+			f(s[:at] + s[at+1:])
+		}
+	}
+}
+
 // Shown is s, quoted, and short enough to be read.
 func Shown(s string) string {
 	if len(s) > 80 {

@@ -24,6 +24,22 @@ func TestRows(t *testing.T) {
 	}
 }
 
+func TestAnywhere(t *testing.T) {
+	count, seen := 0, map[string]bool{}
+	Anywhere("ab", func(s string) {
+		count++
+		seen[s] = true
+	})
+	if count != 5*256+2 { // 3 places for one more, 2 for another one, and 2 texts with one less
+		t.Error(count)
+	}
+	for _, s := range []string{"xab", "axb", "abx", "xb", "ax", "b", "a", "\x00ab", "ab\xff", "\xffb", "a\x00"} {
+		if !seen[s] {
+			t.Errorf("%q", s)
+		}
+	}
+}
+
 func TestShown(t *testing.T) {
 	if s := Shown("a\n"); s != `"a\n"` {
 		t.Error(s)

@@ -215,22 +215,6 @@ func joinsAsModel(t *testing.T, base api.URL, ref string) {
 	joins(t, base, ref, u, e)
 }
 
-// anywhere calls f with s with each byte laid at each place, in another one's stead too, and with a byte less.
-func anywhere(s string, f func(string)) {
-	for at := range len(s) + 1 {
-		for n := range 256 {
-			one := string([]byte{byte(n)})
-			f(s[:at] + one + s[at:])
-			if at < len(s) {
-				f(s[:at] + one + s[at+1:])
-			}
-		}
-		if at < len(s) {
-			f(s[:at] + s[at+1:])
-		}
-	}
-}
-
 // host is a host of that many bytes, of labels of that many.
 func host(size, label int) string {
 	s := strings.Repeat(strings.Repeat("a", label)+".", size)[:size]
@@ -346,7 +330,7 @@ func TestFourNumbers(t *testing.T) {
 // P10.1: each byte at each place of a host.
 func TestHostBytes(t *testing.T) {
 	for _, s := range []string{"a", "ab.c", "1.2.3.4", "a.0x1", "0xf", "a-b.1c"} {
-		anywhere(s, func(s string) { named(t, s, modelNamed(s)) })
+		sample.Anywhere(s, func(s string) { named(t, s, modelNamed(s)) })
 	}
 }
 
@@ -562,11 +546,11 @@ func TestPorts(t *testing.T) {
 func TestBytes(t *testing.T) {
 	for _, s := range []string{"http://a", "http://a.b:80/c?d", "HTTP://1.2.3.4?%41"} {
 		parsesAsModel(t, s)
-		anywhere(s, func(s string) { parsesAsModel(t, s) })
+		sample.Anywhere(s, func(s string) { parsesAsModel(t, s) })
 	}
 	for _, s := range []string{"a:1", "a.B:443", "1.2.3.4:65535"} {
 		authorityAsModel(t, s)
-		anywhere(s, func(s string) { authorityAsModel(t, s) })
+		sample.Anywhere(s, func(s string) { authorityAsModel(t, s) })
 	}
 	for n := range 256 {
 		one := string([]byte{byte(n)})
