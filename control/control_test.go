@@ -39,26 +39,22 @@ var unlike = []string{
 	"pragm", "pragmas", "pragma ", " pragma", "x-pragma", "ragma", "pr\u00e1gma", "pragma:", "pragma\x00",
 }
 
+// What these tests try, and show, is made as other layers' tests make it.
+var (
+	cased  = sample.Cased
+	fields = sample.Fields
+	shown  = sample.ShownFields
+)
+
 // The model below says what the chapter says by regular expressions and unbounded numbers, which the package has none of.
 var (
 	capitals = regexp.MustCompile(`[A-Z]`)
-	smalls   = regexp.MustCompile(`[a-z]`)
 	digits   = regexp.MustCompile(`^[0-9]+$`)
 	pairForm = regexp.MustCompile("^([-!#$%&'*+.^_`|~0-9A-Za-z]+)(?:=(?:([-!#$%&'*+.^_`|~0-9A-Za-z]+)|\"((?:[^\"\\\\\\x00-\\x08\\x0a-\\x1f\\x7f]|\\\\[^\\x00-\\x08\\x0a-\\x1f\\x7f])*)\"))?$")
 	escape   = regexp.MustCompile(`\\((?s:.))`)
 )
 
 func small(s string) string { return capitals.ReplaceAllStringFunc(s, strings.ToLower) }
-
-// cased is s with small letters, with capital ones, and with both.
-func cased(s string) []string {
-	large := smalls.ReplaceAllStringFunc(s, strings.ToUpper)
-	mixed := []byte(small(s))
-	for i := 0; i < len(mixed); i += 2 {
-		mixed[i] = large[i]
-	}
-	return []string{small(s), large, string(mixed)}
-}
 
 // modelNumber is the number of a value, which is read as one of any length.
 func modelNumber(value string) int {
@@ -127,16 +123,6 @@ func modelResponse(l []api.Field) api.Control {
 	}
 }
 
-// fields is a list by its lines; each is parted at its first ':', and the value begins right behind it.
-func fields(lines ...string) []api.Field {
-	var l []api.Field
-	for _, line := range lines {
-		name, value, _ := strings.Cut(line, ":")
-		l = append(l, api.Field{Name: name, Value: value})
-	}
-	return l
-}
-
 // one is a list of one field cache-control.
 func one(value string) []api.Field { return []api.Field{{Name: "Cache-Control", Value: value}} }
 
@@ -173,18 +159,6 @@ func with(said ...string) api.Control {
 		}
 	}
 	return c
-}
-
-// shown is a list, short enough to be read.
-func shown(l []api.Field) string {
-	s := ""
-	for _, f := range l[:min(len(l), 12)] {
-		s += sample.Shown(f.Name) + ": " + sample.Shown(f.Value) + "; "
-	}
-	if len(l) > 12 {
-		s += ".."
-	}
-	return s
 }
 
 // request checks what Request tells, and that the list stays as it is.

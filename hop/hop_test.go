@@ -26,10 +26,16 @@ var others = []string{
 	"ages", "ag", "cache-controls", "content-", "content-md5", "dates", "e-tag", "expire", "hosts", "hos", "ho\u017ft", "if-", "if-matches", "if-none", "lastmodified", "locations", "ranges", "vari", "vias", "vi", "v\u0130a", "\u0130f-match",
 }
 
+// What these tests try, and show, is made as other layers' tests make it.
+var (
+	cased  = sample.Cased
+	fields = sample.Fields
+	shown  = sample.ShownFields
+)
+
 // The model below says what the chapter says by regular expressions, which the package has none of.
 var (
 	capitals = regexp.MustCompile(`[A-Z]`)
-	smalls   = regexp.MustCompile(`[a-z]`)
 	partForm = regexp.MustCompile(`(?:"(?:\\(?s:.)|[^"\\])*(?:"|\\?\z)|[^,"])+`)
 	loopForm = regexp.MustCompile(`^[^ \t]+[ \t]+tollhouse([ \t]|\z)`)
 )
@@ -79,38 +85,6 @@ func modelCloses(minor int, l []api.Field) bool {
 		asked[small(s)] = true
 	}
 	return asked["close"] || !asked["keep-alive"] && minor == 0
-}
-
-// fields is a list by its lines; each is parted at its first ':', and the value begins right behind it.
-func fields(lines ...string) []api.Field {
-	var l []api.Field
-	for _, line := range lines {
-		name, value, _ := strings.Cut(line, ":")
-		l = append(l, api.Field{Name: name, Value: value})
-	}
-	return l
-}
-
-// shown is a list, short enough to be read.
-func shown(l []api.Field) string {
-	s := ""
-	for _, f := range l[:min(len(l), 12)] {
-		s += sample.Shown(f.Name) + ": " + sample.Shown(f.Value) + "; "
-	}
-	if len(l) > 12 {
-		s += ".."
-	}
-	return s
-}
-
-// cased is s with small letters, with capital ones, and with both.
-func cased(s string) []string {
-	large := smalls.ReplaceAllStringFunc(s, strings.ToUpper) // of these letters alone, as small is of those alone
-	mixed := []byte(s)
-	for i := 0; i < len(mixed); i += 2 {
-		mixed[i] = large[i]
-	}
-	return []string{small(s), large, string(mixed)}
 }
 
 func tellsElements(t *testing.T, l []api.Field, name string, want ...string) {

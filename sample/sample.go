@@ -2,8 +2,11 @@
 package sample
 
 import (
+	"slices"
 	"strconv"
 	"strings"
+
+	"tollhouse/api"
 )
 
 // Texts calls f with each text of at most most of these parts.
@@ -36,6 +39,46 @@ func Anywhere(s string, f func(string)) {
 			f(s[:at] + s[at+1:])
 		}
 	}
+}
+
+// Cased is s with small letters, with capital ones, and with both.
+func Cased(s string) []string {
+	small, large := []byte(s), []byte(s)
+	for i, c := range []byte(s) {
+		if 'A' <= c && c <= 'Z' {
+			small[i] = c - 'A' + 'a'
+		}
+		if 'a' <= c && c <= 'z' {
+			large[i] = c - 'a' + 'A'
+		}
+	}
+	mixed := slices.Clone(small)
+	for i := 0; i < len(mixed); i += 2 {
+		mixed[i] = large[i]
+	}
+	return []string{string(small), string(large), string(mixed)}
+}
+
+// Fields is a list by its lines; each is parted at its first ':', and the Value begins right behind it.
+func Fields(lines ...string) []api.Field {
+	var l []api.Field
+	for _, line := range lines {
+		name, value, _ := strings.Cut(line, ":")
+		l = append(l, api.Field{Name: name, Value: value})
+	}
+	return l
+}
+
+// ShownFields is l, short enough to be read.
+func ShownFields(l []api.Field) string {
+	s := ""
+	for _, f := range l[:min(len(l), 12)] {
+		s += Shown(f.Name) + ": " + Shown(f.Value) + "; "
+	}
+	if len(l) > 12 {
+		s += ".."
+	}
+	return s
 }
 
 // Shown is s, quoted, and short enough to be read.

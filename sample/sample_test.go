@@ -4,6 +4,8 @@ import (
 	"slices"
 	"strings"
 	"testing"
+
+	"tollhouse/api"
 )
 
 func TestTexts(t *testing.T) {
@@ -45,6 +47,42 @@ func TestShown(t *testing.T) {
 		t.Error(s)
 	}
 	if s := Shown(strings.Repeat("a", 41) + strings.Repeat("b", 40)); s != `"`+strings.Repeat("a", 40)+`" .. "`+strings.Repeat("b", 40)+`" (81)` {
+		t.Error(s)
+	}
+}
+
+func TestCased(t *testing.T) {
+	for s, want := range map[string][]string{
+		"":               {"", "", ""},
+		"a":              {"a", "A", "A"},
+		"x-Yz":           {"x-yz", "X-YZ", "X-Yz"},
+		"@AZ[`az{\xe9é9": {"@az[`az{\xe9é9", "@AZ[`AZ{\xe9é9", "@aZ[`aZ{\xe9é9"},
+	} {
+		if all := Cased(s); !slices.Equal(all, want) {
+			t.Errorf("%q: %q", s, all)
+		}
+	}
+}
+
+func TestFields(t *testing.T) {
+	if l := Fields(); len(l) != 0 {
+		t.Errorf("%q", l)
+	}
+	want := []api.Field{{Name: "A", Value: "b"}, {Name: "c", Value: " d: e"}, {Name: "f"}, {Name: "g"}, {Value: "h"}, {}}
+	if l := Fields("A:b", "c: d: e", "f:", "g", ":h", ""); !slices.Equal(l, want) {
+		t.Errorf("%q", l)
+	}
+}
+
+func TestShownFields(t *testing.T) {
+	if s := ShownFields(nil); s != "" {
+		t.Error(s)
+	}
+	if s := ShownFields(Fields("a:b", "c:"+strings.Repeat("d", 81))); s != `"a": "b"; "c": `+Shown(strings.Repeat("d", 81))+"; " {
+		t.Error(s)
+	}
+	l := Fields(slices.Repeat([]string{"a:b"}, 13)...)
+	if s := ShownFields(l); s != strings.Repeat(`"a": "b"; `, 12)+".." || ShownFields(l[1:]) != strings.TrimSuffix(s, "..") {
 		t.Error(s)
 	}
 }

@@ -13,25 +13,20 @@ import (
 	"tollhouse/sample"
 )
 
+// What these tests try, and show, is made as other layers' tests make it.
+var (
+	cased  = sample.Cased
+	fields = sample.Fields
+	shown  = sample.ShownFields
+)
+
 // The model below says what elements and names are by regular expressions, and looks for what was met in lists.
 var (
 	capitals = regexp.MustCompile(`[A-Z]`)
-	smalls   = regexp.MustCompile(`[a-z]`)
 	partForm = regexp.MustCompile(`(?:"(?:\\(?s:.)|[^"\\])*(?:"|\\?\z)|[^,"])+`)
 )
 
 func small(s string) string { return capitals.ReplaceAllStringFunc(s, strings.ToLower) }
-
-func large(s string) string { return smalls.ReplaceAllStringFunc(s, strings.ToUpper) }
-
-// cased is s with small letters, with capital ones, and with both.
-func cased(s string) []string {
-	mixed := []byte(small(s))
-	for i := 0; i < len(mixed); i += 2 {
-		mixed[i] = large(s)[i]
-	}
-	return []string{small(s), large(s), string(mixed)}
-}
 
 // modelValues is the Values of l's fields of that name.
 func modelValues(name string, l []api.Field) []string {
@@ -96,16 +91,6 @@ func modelAlike(names []string, a, b []api.Field) bool {
 	return true
 }
 
-// fields is a list by its lines; each is parted at its first ':', and the value begins right behind it.
-func fields(lines ...string) []api.Field {
-	var l []api.Field
-	for _, line := range lines {
-		name, value, _ := strings.Cut(line, ":")
-		l = append(l, api.Field{Name: name, Value: value})
-	}
-	return l
-}
-
 // each is a list with each of these names in a field vary of its own.
 func each(names []string) []api.Field {
 	var l []api.Field
@@ -113,18 +98,6 @@ func each(names []string) []api.Field {
 		l = append(l, api.Field{Name: "Vary", Value: name})
 	}
 	return l
-}
-
-// shown is a list, short enough to be read.
-func shown(l []api.Field) string {
-	s := ""
-	for _, f := range l[:min(len(l), 12)] {
-		s += sample.Shown(f.Name) + ": " + sample.Shown(f.Value) + "; "
-	}
-	if len(l) > 12 {
-		s += ".."
-	}
-	return s
 }
 
 // tells checks what Names tells of a list, and what follows of it (P16.5).
